@@ -200,11 +200,7 @@ func TestWordsKnown(t *testing.T) {
 func TestWordsEveryPlaceAndLength(t *testing.T) {
 	text := mixed(2, 900)
 	for at := -12; at <= 784; at++ {
-		for n := 0; n <= 780; n += 1 + n/40 {
-			wordsOf(t, at, text[:n])
-		}
-		// Just up to the flash's end, and just beyond it.
-		for n := max(0, 766-at); n <= 770-at; n++ {
+		for n := range 785 {
 			wordsOf(t, at, text[:n])
 		}
 	}
