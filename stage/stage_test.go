@@ -226,13 +226,13 @@ func TestSumsBytes(t *testing.T) {
 	for slot, base := range bases() {
 		for _, size := range []int{1, 2, 95, 96, 97, 192, 287, 288} {
 			was := right(f, 1, slot, size)
-			for at := range 768 {
+			for bit := range 8 * 768 {
 				b := []byte(f)
-				b[at] ^= 1 << (at % 8)
+				b[bit/8] ^= 1 << (bit % 8)
 				r, e := stage.Record(string(b), slot, size)
-				within := at >= base && at < base+size
+				within := bit/8 >= base && bit/8 < base+size
 				if e != api.OK || (r != was) != within || r != right(string(b), 1, slot, size) {
-					t.Errorf("P9.2: slot %d, size %d, byte %d: %+v, error %d", slot, size, at, r, e)
+					t.Errorf("P9.2: slot %d, size %d, bit %d: %+v, error %d", slot, size, bit, r, e)
 				}
 			}
 		}
