@@ -1,0 +1,24 @@
+// Package fresh makes copies that share no memory with what they are of, for layers that answer what they were handed.
+package fresh
+
+import (
+	"strings"
+
+	"skiff/api"
+)
+
+// Device is a copy of d.
+func Device(d api.Device) api.Device {
+	d.Ops = steps(d.Ops)
+	return d
+}
+
+// steps is a copy of a list; a step's text is bytes too, so that it is copied as well.
+func steps(list []api.Op) []api.Op {
+	var out []api.Op
+	for _, step := range list {
+		step.Text = strings.Clone(step.Text)
+		out = append(out, step)
+	}
+	return out
+}

@@ -1,0 +1,91 @@
+package fresh_test
+
+import (
+	"slices"
+	"strings"
+	"sync"
+	"testing"
+	"unsafe"
+
+	"skiff/api"
+	"skiff/fresh"
+)
+
+// full is a device with something in each field; its steps' texts lie in b.
+func full(b []byte) api.Device {
+	steps := []api.Op{{Erase: true, At: 96}}
+	for at := 0; at+4 <= len(b); at += 4 {
+		steps = append(steps, api.Op{At: at, Text: unsafe.String(&b[at], 4)})
+	}
+	return api.Device{State: api.StateBusy, Status: api.StatusWrite, Next: 5, Got: 160, Slot: 1, Ops: steps}
+}
+
+// same: are they the same device? An empty list and nil are one.
+func same(a, b api.Device) bool {
+	return a.State == b.State && a.Status == b.Status && a.Next == b.Next && a.Got == b.Got && a.Slot == b.Slot && slices.Equal(a.Ops, b.Ops)
+}
+
+// A copy is what it is of, field by field.
+func TestDevice(t *testing.T) {
+	for _, d := range []api.Device{
+		{},
+		{Ops: []api.Op{}},
+		{State: 1}, {Status: 2}, {Next: 3}, {Got: 4}, {Slot: 1}, {Ops: []api.Op{{At: 8, Text: "abcd"}}},
+		{State: -1, Status: -2, Next: -3, Got: -4, Slot: -5, Ops: []api.Op{{Erase: true, At: -6, Text: strings.Repeat("x", 9)}, {}}},
+		full([]byte("twelve bytes")),
+	} {
+		if got := fresh.Device(d); !same(got, d) {
+			t.Errorf("Device(%+v) = %+v", d, got)
+		}
+	}
+}
+
+// R4: neither list nor text is shared: what becomes of the one is not to be seen in the other.
+func TestSharesNothing(t *testing.T) {
+	b := []byte("twelve bytes")
+	want := full([]byte("twelve bytes"))
+	d := full(b)
+	one, two := fresh.Device(d), fresh.Device(d)
+	for n := range one.Ops {
+		one.Ops[n].At, one.Ops[n].Text = 7, "other"
+	}
+	_ = append(two.Ops[:1], api.Op{Text: "laid"})
+	if !same(d, want) {
+		t.Errorf("R4: what was handed in is %+v now", d)
+	}
+	three := fresh.Device(d)
+	clear(b)
+	clear(d.Ops)
+	if !same(three, want) {
+		t.Errorf("R4: a copy is %+v now", three)
+	}
+}
+
+// R4: the spare room of what is handed in stays.
+func TestSpareRoomStays(t *testing.T) {
+	room := append(full([]byte("abcd")).Ops, api.Op{At: 1}, api.Op{At: 2})
+	kept := slices.Clone(room)
+	got := fresh.Device(api.Device{Ops: room[:2:4]})
+	_ = append(got.Ops, api.Op{At: 3}, api.Op{At: 4})
+	if !slices.Equal(room, kept) || len(got.Ops) != 2 {
+		t.Errorf("R4: the room is %+v now", room)
+	}
+}
+
+// R5: one may be copied by many at one time.
+func TestManyAtOneTime(t *testing.T) {
+	d := full([]byte("twelve bytes"))
+	var wait sync.WaitGroup
+	for range 6 {
+		wait.Go(func() {
+			for range 200 {
+				got := fresh.Device(d)
+				if !same(got, d) {
+					t.Errorf("R5: %+v", got)
+				}
+				clear(got.Ops)
+			}
+		})
+	}
+	wait.Wait()
+}
