@@ -13,6 +13,12 @@ func Device(d api.Device) api.Device {
 	return d
 }
 
+// Host is a copy of h.
+func Host(h api.Host) api.Host {
+	h.Image, h.Read = strings.Clone(h.Image), strings.Clone(h.Read)
+	return h
+}
+
 // steps is a copy of a list; a step's text is bytes too, so that it is copied as well.
 func steps(list []api.Op) []api.Op {
 	var out []api.Op

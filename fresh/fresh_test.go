@@ -72,6 +72,36 @@ func TestSpareRoomStays(t *testing.T) {
 	}
 }
 
+// A host's copy is what it is of, field by field.
+func TestHost(t *testing.T) {
+	for _, h := range []api.Host{
+		{},
+		{Phase: 1}, {Image: "i"}, {Block: 2}, {Again: true}, {Tries: 3}, {Read: "r"}, {Report: 4},
+		{Phase: -1, Image: strings.Repeat("i", 5000), Block: -2, Again: true, Tries: -3, Read: strings.Repeat("r", 5000), Report: -4},
+	} {
+		if got := fresh.Host(h); got != h {
+			t.Errorf("Host(%+v) = %+v", h, got)
+		}
+	}
+}
+
+// R4: neither of a host's texts is shared, with what was handed in or with another copy.
+func TestHostSharesNothing(t *testing.T) {
+	b := []byte("an image, and what was read")
+	h := api.Host{Image: unsafe.String(&b[0], 8), Read: unsafe.String(&b[8], len(b)-8)}
+	one, two := fresh.Host(h), fresh.Host(h)
+	if unsafe.StringData(one.Image) == unsafe.StringData(two.Image) || unsafe.StringData(one.Read) == unsafe.StringData(two.Read) {
+		t.Error("R4: two copies share memory")
+	}
+	if string(b) != "an image, and what was read" {
+		t.Errorf("R4: what was handed in is %q now", b)
+	}
+	clear(b)
+	if one != (api.Host{Image: "an image", Read: ", and what was read"}) || two != one {
+		t.Errorf("R4: a copy is %+v now", one)
+	}
+}
+
 // R5: one may be copied by many at one time.
 func TestManyAtOneTime(t *testing.T) {
 	d := full([]byte("twelve bytes"))
@@ -84,6 +114,9 @@ func TestManyAtOneTime(t *testing.T) {
 					t.Errorf("R5: %+v", got)
 				}
 				clear(got.Ops)
+				if h := fresh.Host(api.Host{Image: "i", Read: "r"}); h != (api.Host{Image: "i", Read: "r"}) {
+					t.Errorf("R5: %+v", h)
+				}
 			}
 		})
 	}
