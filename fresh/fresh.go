@@ -19,6 +19,12 @@ func Host(h api.Host) api.Host {
 	return h
 }
 
+// World is a copy of w.
+func World(w api.World) api.World {
+	w.Flash, w.Device, w.Host = strings.Clone(w.Flash), Device(w.Device), Host(w.Host)
+	return w
+}
+
 // steps is a copy of a list; a step's text is bytes too, so that it is copied as well.
 func steps(list []api.Op) []api.Op {
 	var out []api.Op

@@ -102,6 +102,47 @@ func TestHostSharesNothing(t *testing.T) {
 	}
 }
 
+// alike: are they the same world?
+func alike(a, b api.World) bool {
+	return a.Flash == b.Flash && a.Ids == b.Ids && same(a.Device, b.Device) && a.Host == b.Host
+}
+
+// A world's copy is what it is of, field by field.
+func TestWorld(t *testing.T) {
+	for _, w := range []api.World{
+		{},
+		{Flash: "f"}, {Ids: api.Ids{Vendor: 1}}, {Ids: api.Ids{Product: 2}}, {Ids: api.Ids{Version: 3}}, {Device: full([]byte("abcd"))}, {Host: api.Host{Image: "i", Read: "r"}},
+		{Flash: strings.Repeat("f", 5000), Ids: api.Ids{Vendor: -1, Product: -2, Version: -3}, Device: full([]byte("twelve bytes")), Host: api.Host{Phase: -1, Again: true}},
+	} {
+		if got := fresh.World(w); !alike(got, w) {
+			t.Errorf("World(%+v) = %+v", w, got)
+		}
+	}
+}
+
+// R4: nothing of a world is shared, with what was handed in or with another copy.
+func TestWorldSharesNothing(t *testing.T) {
+	b, steps := []byte("flash"), []byte("twelve bytes")
+	near := []byte("an image, and what was read")
+	w := api.World{Flash: unsafe.String(&b[0], len(b)), Device: full(steps), Host: api.Host{Image: unsafe.String(&near[0], 8), Read: unsafe.String(&near[8], len(near)-8)}}
+	want := api.World{Flash: "flash", Device: full([]byte("twelve bytes")), Host: api.Host{Image: "an image", Read: ", and what was read"}}
+	one, two := fresh.World(w), fresh.World(w)
+	if unsafe.StringData(one.Flash) == unsafe.StringData(two.Flash) || unsafe.StringData(one.Host.Image) == unsafe.StringData(two.Host.Image) || unsafe.StringData(one.Host.Read) == unsafe.StringData(two.Host.Read) {
+		t.Error("R4: two copies share memory")
+	}
+	clear(two.Device.Ops)
+	if !alike(w, want) {
+		t.Errorf("R4: what was handed in is %+v now", w)
+	}
+	clear(b)
+	clear(steps)
+	clear(near)
+	clear(w.Device.Ops)
+	if !alike(one, want) {
+		t.Errorf("R4: a copy is %+v now", one)
+	}
+}
+
 // R5: one may be copied by many at one time.
 func TestManyAtOneTime(t *testing.T) {
 	d := full([]byte("twelve bytes"))
@@ -116,6 +157,9 @@ func TestManyAtOneTime(t *testing.T) {
 				clear(got.Ops)
 				if h := fresh.Host(api.Host{Image: "i", Read: "r"}); h != (api.Host{Image: "i", Read: "r"}) {
 					t.Errorf("R5: %+v", h)
+				}
+				if w := fresh.World(api.World{Flash: "f", Device: d}); !alike(w, api.World{Flash: "f", Device: d}) {
+					t.Errorf("R5: %+v", w)
 				}
 			}
 		})
